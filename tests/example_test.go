@@ -1,0 +1,33 @@
+package tests
+
+import (
+	"slices"
+	"testing"
+
+	"loop.example/g00057/impl"
+)
+
+func TestConstants(t *testing.T) {
+	got := []int64{impl.OK, impl.ErrForm, impl.ErrMany, impl.ErrRange, impl.ErrNone, impl.ErrText, impl.ErrZero, impl.ErrTaken,
+		impl.MaxNum, impl.MaxText, impl.CoinPrime, impl.MaxCoins}
+	want := []int64{0, 1, 2, 3, 4, 5, 6, 7, 1000000000, 4000, 2147483647, 5000}
+	if !slices.Equal(got, want) {
+		t.Errorf("the constants are %v, want %v", got, want)
+	}
+}
+
+func TestExamplesOfFractions(t *testing.T) {
+	if r := impl.AddFrac(impl.Frac{Num: 1, Den: 2}, impl.Frac{Num: 1, Den: 3}); r != (impl.FracResult{Frac: impl.Frac{Num: 5, Den: 6}}) {
+		t.Errorf("1/2 and 1/3 are %v", r)
+	}
+	if n := impl.RoundFrac(impl.Frac{Num: -5, Den: 2}); n != -2 {
+		t.Errorf("-5/2 is rounded to %d", n)
+	}
+	checkParse(t, []parseCase{{"-6/4", parsed(-3, 2)}, {"6/-4", failed(impl.ErrText, 2)}, {"1/0", failed(impl.ErrZero, 1)}})
+}
+
+func TestExampleOfCoins(t *testing.T) {
+	if r := impl.Coins(1, 3, 6); !sameCoins(r, impl.CoinResult{Next: 1291394886, List: []int64{4, 5, 3}}) {
+		t.Errorf("Coins(1, 3, 6) = %v", r)
+	}
+}
