@@ -16,6 +16,14 @@ func TestConstants(t *testing.T) {
 	}
 }
 
+func TestConstantsOfShapes(t *testing.T) {
+	got := []int64{impl.MaxPlace, impl.MaxBoxes, impl.MaxGrow, impl.ShapeJoin, impl.ShapeMeet, impl.ShapeLess, impl.ShapeEither}
+	want := []int64{10000, 150, 1000, 1, 2, 3, 4}
+	if !slices.Equal(got, want) {
+		t.Errorf("the constants are %v, want %v", got, want)
+	}
+}
+
 func TestExamplesOfFractions(t *testing.T) {
 	if r := impl.AddFrac(impl.Frac{Num: 1, Den: 2}, impl.Frac{Num: 1, Den: 3}); r != (impl.FracResult{Frac: impl.Frac{Num: 5, Den: 6}}) {
 		t.Errorf("1/2 and 1/3 are %v", r)
@@ -30,4 +38,13 @@ func TestExampleOfCoins(t *testing.T) {
 	if r := impl.Coins(1, 3, 6); !sameCoins(r, impl.CoinResult{Next: 1291394886, List: []int64{4, 5, 3}}) {
 		t.Errorf("Coins(1, 3, 6) = %v", r)
 	}
+}
+
+func TestExamplesOfShapes(t *testing.T) {
+	s := impl.ShapeOf(boxes(box(0, 0, 2, 2), box(1, 1, 3, 3)))
+	checkShape(t, "two squares", s, impl.ShapeResult{Boxes: boxes(box(0, 0, 2, 1), box(0, 1, 3, 2), box(1, 2, 3, 3))})
+	if rim := impl.RimOf(s.Boxes); rim != (impl.ShapeInt{Value: 12}) {
+		t.Errorf("the rim of two squares is %v", rim)
+	}
+	checkShape(t, "turned once", impl.TurnShape(boxes(box(0, 0, 3, 1)), 1), impl.ShapeResult{Boxes: boxes(box(-1, 0, 0, 3))})
 }
