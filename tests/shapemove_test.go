@@ -156,21 +156,32 @@ func TestGrowingToTooManyBoxes(t *testing.T) {
 	checkShape(t, "many, up to the places", impl.GrowShape(twoColumns(75, -impl.MaxPlace+1), 1), shapeCode(impl.ErrMany))
 }
 
-func TestShrinkingToTooManyBoxes(t *testing.T) {
-	seen := map[int64]int{}
-	for n := int64(10); n <= 20; n++ {
-		gaps := cellsOf(twoColumns(n, 0))
-		in := func(x int64, y int64) bool {
-			return x >= -3 && x < 13 && y >= -3 && y < 4*n+3 && !gaps(x, y)
-		}
-		xs, ys := placesFrom(-4, 14), placesFrom(-4, 4*n+4)
-		want := shapeWant(formOf(not(near(in, 1, false)), xs, ys))
-		got := impl.GrowShape(formOf(in, xs, ys), -1)
-		checkShape(t, "with two columns of holes", got, want)
-		seen[got.Code]++
+// sieve is a plate with two columns of holes, and that many squares of three cells above it, apart from one another.
+func sieve(n int64, squares int64) cellSet {
+	gaps := cellsOf(twoColumns(n, 0))
+	return func(x int64, y int64) bool {
+		up := y - 4*n - 5
+		square := x >= 0 && x < 3 && up >= 0 && up < 4*squares && up%4 < 3
+		return square || x >= -3 && x < 13 && y >= -3 && y < 4*n+3 && !gaps(x, y)
 	}
-	if seen[impl.OK] == 0 || seen[impl.ErrMany] == 0 {
-		t.Errorf("the codes are %v", seen)
+}
+
+func TestShrinkingToTooManyBoxes(t *testing.T) {
+	seen := map[int]int64{}
+	for squares := range int64(30) {
+		const n = 13
+		in := sieve(n, squares)
+		xs, ys := placesFrom(-4, 14), placesFrom(-4, 4*(n+squares)+6)
+		want := formOf(not(near(in, 1, false)), xs, ys)
+		got := impl.GrowShape(formOf(in, xs, ys), -1)
+		checkShape(t, "a sieve", got, shapeWant(want))
+		seen[len(want)] = got.Code
+	}
+	if code, met := seen[impl.MaxBoxes]; !met || code != impl.OK {
+		t.Errorf("no sieve of just %d boxes is right", impl.MaxBoxes)
+	}
+	if seen[impl.MaxBoxes+1] != impl.ErrMany {
+		t.Errorf("a sieve of %d boxes has the code %d", impl.MaxBoxes+1, seen[impl.MaxBoxes+1])
 	}
 }
 
@@ -323,6 +334,12 @@ func TestTurningToTooManyBoxes(t *testing.T) {
 	if !seen[impl.OK] || !seen[impl.ErrMany] {
 		t.Errorf("the codes are %v", seen)
 	}
+	// Two steps are two boxes as they lie, and four once they are turned.
+	two := boxes(box(1000, 10, 1011, 11), box(1002, 12, 1013, 13))
+	if got := impl.TurnShape(append(stripes(impl.MaxBoxes-4, 3), two...), 1); got.Code != impl.OK || len(got.Boxes) != impl.MaxBoxes {
+		t.Errorf("stripes and steps, turned: code %d, %d boxes", got.Code, len(got.Boxes))
+	}
+	checkShape(t, "one stripe more", impl.TurnShape(append(stripes(impl.MaxBoxes-3, 3), two...), 1), shapeCode(impl.ErrMany))
 	// A row of as many boxes as may be stays as many in a column.
 	if got := impl.TurnShape(stripes(impl.MaxBoxes, 3), 1); got.Code != impl.OK || len(got.Boxes) != impl.MaxBoxes {
 		t.Errorf("a full row, turned: code %d, %d boxes", got.Code, len(got.Boxes))
