@@ -24,6 +24,14 @@ func TestConstantsOfShapes(t *testing.T) {
 	}
 }
 
+func TestConstantsOfCells(t *testing.T) {
+	got := []int64{impl.MaxCells, impl.MaxFlat, impl.MaxName}
+	want := []int64{20, 400, 16}
+	if !slices.Equal(got, want) {
+		t.Errorf("the constants are %v, want %v", got, want)
+	}
+}
+
 func TestExamplesOfFractions(t *testing.T) {
 	if r := impl.AddFrac(impl.Frac{Num: 1, Den: 2}, impl.Frac{Num: 1, Den: 3}); r != (impl.FracResult{Frac: impl.Frac{Num: 5, Den: 6}}) {
 		t.Errorf("1/2 and 1/3 are %v", r)
@@ -47,4 +55,9 @@ func TestExamplesOfShapes(t *testing.T) {
 		t.Errorf("the rim of two squares is %v", rim)
 	}
 	checkShape(t, "turned once", impl.TurnShape(boxes(box(0, 0, 3, 1)), 1), impl.ShapeResult{Boxes: boxes(box(-1, 0, 0, 3))})
+}
+
+func TestExampleOfCells(t *testing.T) {
+	list := []impl.Cell{cellWith("a", lboxes(on(0, box(0, 0, 1, 2)))), cellWith("b", nil, impl.Place{Cell: "a", X: 5, Turn: 1, Nx: 2, Ny: 1, Dx: 3})}
+	checkFlat(t, "placed twice", impl.Flatten(list, "b"), impl.FlatResult{Boxes: lboxes(on(0, box(3, 0, 5, 1)), on(0, box(6, 0, 8, 1)))})
 }
