@@ -32,6 +32,14 @@ func TestConstantsOfCells(t *testing.T) {
 	}
 }
 
+func TestConstantsOfRules(t *testing.T) {
+	got := []int64{impl.MaxLayers, impl.MaxRules, impl.RuleThin, impl.RuleNear, impl.RuleCover, impl.RuleApart, impl.RuleSmall}
+	want := []int64{8, 30, 1, 2, 3, 4, 5}
+	if !slices.Equal(got, want) {
+		t.Errorf("the constants are %v, want %v", got, want)
+	}
+}
+
 func TestExamplesOfFractions(t *testing.T) {
 	if r := impl.AddFrac(impl.Frac{Num: 1, Den: 2}, impl.Frac{Num: 1, Den: 3}); r != (impl.FracResult{Frac: impl.Frac{Num: 5, Den: 6}}) {
 		t.Errorf("1/2 and 1/3 are %v", r)
@@ -60,4 +68,9 @@ func TestExamplesOfShapes(t *testing.T) {
 func TestExampleOfCells(t *testing.T) {
 	list := []impl.Cell{cellWith("a", lboxes(on(0, box(0, 0, 1, 2)))), cellWith("b", nil, impl.Place{Cell: "a", X: 5, Turn: 1, Nx: 2, Ny: 1, Dx: 3})}
 	checkFlat(t, "placed twice", impl.Flatten(list, "b"), impl.FlatResult{Boxes: lboxes(on(0, box(3, 0, 5, 1)), on(0, box(6, 0, 8, 1)))})
+}
+
+func TestExampleOfRules(t *testing.T) {
+	s := boxes(box(0, 0, 1, 1), box(2, 0, 3, 1))
+	checkShape(t, "two dots", impl.NearOf(s, 2), impl.ShapeResult{Boxes: boxes(box(1, 0, 2, 1))})
 }

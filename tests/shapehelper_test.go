@@ -1,6 +1,7 @@
 package tests
 
 import (
+	"fmt"
 	"math"
 	"math/rand"
 	"slices"
@@ -205,6 +206,11 @@ func sameShape(a impl.ShapeResult, b impl.ShapeResult) bool {
 func checkShape(t *testing.T, what string, got impl.ShapeResult, want impl.ShapeResult) {
 	t.Helper()
 	if !sameShape(got, want) {
-		t.Errorf("%s: code %d, %d boxes %.300v; want code %d, %d boxes %.300v", what, got.Code, len(got.Boxes), got.Boxes, want.Code, len(want.Boxes), want.Boxes)
+		t.Errorf("%s: code %d, %d boxes %s; want code %d, %d boxes %s", what, got.Code, len(got.Boxes), brief(got.Boxes), want.Code, len(want.Boxes), brief(want.Boxes))
 	}
+}
+
+// brief tells the beginning of what may be long.
+func brief(what any) string {
+	return fmt.Sprintf("%.300s", fmt.Sprint(what))
 }
