@@ -40,6 +40,14 @@ func TestConstantsOfRules(t *testing.T) {
 	}
 }
 
+func TestConstantsOfNets(t *testing.T) {
+	got := []int64{impl.MaxVias, impl.MaxNets, impl.MaxDevices}
+	want := []int64{60, 7, 12}
+	if !slices.Equal(got, want) {
+		t.Errorf("the constants are %v, want %v", got, want)
+	}
+}
+
 func TestExamplesOfFractions(t *testing.T) {
 	if r := impl.AddFrac(impl.Frac{Num: 1, Den: 2}, impl.Frac{Num: 1, Den: 3}); r != (impl.FracResult{Frac: impl.Frac{Num: 5, Den: 6}}) {
 		t.Errorf("1/2 and 1/3 are %v", r)
@@ -73,4 +81,9 @@ func TestExampleOfCells(t *testing.T) {
 func TestExampleOfRules(t *testing.T) {
 	s := boxes(box(0, 0, 1, 1), box(2, 0, 3, 1))
 	checkShape(t, "two dots", impl.NearOf(s, 2), impl.ShapeResult{Boxes: boxes(box(1, 0, 2, 1))})
+}
+
+func TestExampleOfNets(t *testing.T) {
+	got := impl.TransistorsOf(boxes(box(2, -1, 3, 3)), boxes(box(0, 0, 5, 2)))
+	checkNetlist(t, "a line across a field", got, impl.NetlistResult{Netlist: circuit(3, device(1, 0, 1, 2))})
 }
