@@ -48,6 +48,14 @@ func TestConstantsOfNets(t *testing.T) {
 	}
 }
 
+func TestConstantsOfMasks(t *testing.T) {
+	got := []int64{impl.MaxShots, impl.MaxFrame, impl.MaxReach}
+	want := []int64{40, 24, 4}
+	if !slices.Equal(got, want) {
+		t.Errorf("the constants are %v, want %v", got, want)
+	}
+}
+
 func TestExamplesOfFractions(t *testing.T) {
 	if r := impl.AddFrac(impl.Frac{Num: 1, Den: 2}, impl.Frac{Num: 1, Den: 3}); r != (impl.FracResult{Frac: impl.Frac{Num: 5, Den: 6}}) {
 		t.Errorf("1/2 and 1/3 are %v", r)
@@ -86,4 +94,9 @@ func TestExampleOfRules(t *testing.T) {
 func TestExampleOfNets(t *testing.T) {
 	got := impl.TransistorsOf(boxes(box(2, -1, 3, 3)), boxes(box(0, 0, 5, 2)))
 	checkNetlist(t, "a line across a field", got, impl.NetlistResult{Netlist: circuit(3, device(1, 0, 1, 2))})
+}
+
+func TestExampleOfMasks(t *testing.T) {
+	got := impl.SpreadMap(shots(shot(box(0, 0, 1, 1), 2)), writer(box(0, 0, 2, 1), 3, 1, 1))
+	checkRows(t, "one shot", got, doseRows(numbers(8, 2)))
 }
