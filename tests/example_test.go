@@ -56,6 +56,14 @@ func TestConstantsOfMasks(t *testing.T) {
 	}
 }
 
+func TestConstantsOfImages(t *testing.T) {
+	got := []int64{impl.Turn, impl.MaxPeriod, impl.MaxSource, impl.MaxOrder, impl.Prime}
+	want := []int64{1048576, 24, 12, 12, 998244353}
+	if !slices.Equal(got, want) {
+		t.Errorf("the constants are %v, want %v", got, want)
+	}
+}
+
 func TestExamplesOfFractions(t *testing.T) {
 	if r := impl.AddFrac(impl.Frac{Num: 1, Den: 2}, impl.Frac{Num: 1, Den: 3}); r != (impl.FracResult{Frac: impl.Frac{Num: 5, Den: 6}}) {
 		t.Errorf("1/2 and 1/3 are %v", r)
@@ -99,4 +107,11 @@ func TestExampleOfNets(t *testing.T) {
 func TestExampleOfMasks(t *testing.T) {
 	got := impl.SpreadMap(shots(shot(box(0, 0, 1, 1), 2)), writer(box(0, 0, 2, 1), 3, 1, 1))
 	checkRows(t, "one shot", got, doseRows(numbers(8, 2)))
+}
+
+func TestExamplesOfImages(t *testing.T) {
+	mask := reals(1, 1, 0, 0)
+	checkWave(t, "half of four", impl.OrdersOf(mask), wave(z(2, 0), z(1, -1), z(0, 0), z(1, 1)))
+	checkFloats(t, "half of four", impl.ImageOf(mask, pupil(1, 0), spots(spot(0, 1))), floats(16, 16, 0, 0))
+	checkInts(t, "half of four", impl.ModImage(numbers(1, 1, 0, 0), numbers(1, 1, 0, 0), numbers(0)), ints(4, 2, 0, 2))
 }
