@@ -64,6 +64,12 @@ func TestConstantsOfImages(t *testing.T) {
 	}
 }
 
+func TestConstantsOfCorrections(t *testing.T) {
+	if got, want := []int64{impl.MaxLength, impl.MaxLines}, numbers(60, 12); !slices.Equal(got, want) {
+		t.Errorf("the constants are %v, want %v", got, want)
+	}
+}
+
 func TestExamplesOfFractions(t *testing.T) {
 	if r := impl.AddFrac(impl.Frac{Num: 1, Den: 2}, impl.Frac{Num: 1, Den: 3}); r != (impl.FracResult{Frac: impl.Frac{Num: 5, Den: 6}}) {
 		t.Errorf("1/2 and 1/3 are %v", r)
@@ -114,4 +120,8 @@ func TestExamplesOfImages(t *testing.T) {
 	checkWave(t, "half of four", impl.OrdersOf(mask), wave(z(2, 0), z(1, -1), z(0, 0), z(1, 1)))
 	checkFloats(t, "half of four", impl.ImageOf(mask, pupil(1, 0), spots(spot(0, 1))), floats(16, 16, 0, 0))
 	checkInts(t, "half of four", impl.ModImage(numbers(1, 1, 0, 0), numbers(1, 1, 0, 0), numbers(0)), ints(4, 2, 0, 2))
+}
+
+func TestExampleOfCorrections(t *testing.T) {
+	checkInts(t, "one line", impl.IntensityOf(linesAt(2, 5), 8, kernel(1, 4, 2, 1)), ints(1, 3, 7, 8, 7, 3, 1, 0))
 }
