@@ -70,6 +70,12 @@ func TestConstantsOfCorrections(t *testing.T) {
 	}
 }
 
+func TestConstantsOfResist(t *testing.T) {
+	if got, want := []int64{impl.MaxGrid, impl.MaxValue}, numbers(16, 1000000); !slices.Equal(got, want) {
+		t.Errorf("the constants are %v, want %v", got, want)
+	}
+}
+
 func TestExamplesOfFractions(t *testing.T) {
 	if r := impl.AddFrac(impl.Frac{Num: 1, Den: 2}, impl.Frac{Num: 1, Den: 3}); r != (impl.FracResult{Frac: impl.Frac{Num: 5, Den: 6}}) {
 		t.Errorf("1/2 and 1/3 are %v", r)
@@ -124,4 +130,9 @@ func TestExamplesOfImages(t *testing.T) {
 
 func TestExampleOfCorrections(t *testing.T) {
 	checkInts(t, "one line", impl.IntensityOf(linesAt(2, 5), 8, kernel(1, 4, 2, 1)), ints(1, 3, 7, 8, 7, 3, 1, 0))
+}
+
+func TestExamplesOfResist(t *testing.T) {
+	checkRows(t, "diffused once", impl.Diffuse(grid(numbers(64, 0, 0)), 16, 1), doseRows(numbers(48, 16, 0)))
+	checkRows(t, "four places", impl.DevelopTimes(grid(numbers(1, 9), numbers(3, 4))), doseRows(numbers(1, 9), numbers(4, 8)))
 }
