@@ -136,3 +136,7 @@ func TestExamplesOfResist(t *testing.T) {
 	checkRows(t, "diffused once", impl.Diffuse(grid(numbers(64, 0, 0)), 16, 1), doseRows(numbers(48, 16, 0)))
 	checkRows(t, "four places", impl.DevelopTimes(grid(numbers(1, 9), numbers(3, 4))), doseRows(numbers(1, 9), numbers(4, 8)))
 }
+
+func TestExampleOfWindows(t *testing.T) {
+	checkLargest(t, "two rows", grid(numbers(1, 1, 0), numbers(1, 1, 1)), window(4, box(0, 0, 2, 2)))
+}
