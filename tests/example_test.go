@@ -76,6 +76,12 @@ func TestConstantsOfResist(t *testing.T) {
 	}
 }
 
+func TestConstantOfOverlay(t *testing.T) {
+	if got := int64(impl.MaxMarks); got != 20 {
+		t.Errorf("MaxMarks is %d", got)
+	}
+}
+
 func TestExamplesOfFractions(t *testing.T) {
 	if r := impl.AddFrac(impl.Frac{Num: 1, Den: 2}, impl.Frac{Num: 1, Den: 3}); r != (impl.FracResult{Frac: impl.Frac{Num: 5, Den: 6}}) {
 		t.Errorf("1/2 and 1/3 are %v", r)
@@ -139,4 +145,8 @@ func TestExamplesOfResist(t *testing.T) {
 
 func TestExampleOfWindows(t *testing.T) {
 	checkLargest(t, "two rows", grid(numbers(1, 1, 0), numbers(1, 1, 1)), window(4, box(0, 0, 2, 2)))
+}
+
+func TestExampleOfOverlay(t *testing.T) {
+	checkFitted(t, "three marks", marks(mark(0, 0, 1, 0), mark(2, 0, 3, 0), mark(0, 2, 1, 2)), fitted(wholeModel(1, 0, 1, 0)))
 }

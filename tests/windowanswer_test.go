@@ -25,11 +25,7 @@ type windowAnswer struct {
 	pass   impl.PairRows
 }
 
-type windowCall struct {
-	name string
-	call func(q windowAsk) windowAnswer
-	want func(q windowAsk) windowAnswer
-}
+type windowCall = callLike[windowAsk, windowAnswer]
 
 // windowCalls stand beside what the plain reckoning answers.
 func windowCalls() []windowCall {
@@ -188,67 +184,20 @@ func oneRowWindow() windowAsk {
 }
 
 func TestEveryWindowAskIsAnswered(t *testing.T) {
-	for _, q := range someWindowAsks(1200) {
-		roomed := q.roomed()
-		kept := roomed.wholly()
-		for _, c := range windowCalls() {
-			got := c.call(roomed)
-			if !got.same(c.call(roomed)) || !got.same(c.call(q.copied())) {
-				t.Fatalf("%s of %s has two answers", c.name, brief(q))
-			}
-			if !roomed.wholly().same(kept) {
-				t.Fatalf("%s changed what it was given, %s", c.name, brief(q))
-			}
-		}
-	}
+	checkSteady(t, someWindowAsks(1200), windowCalls())
 }
 
 func TestEveryWindowAskIsAnsweredRightly(t *testing.T) {
-	met, held := map[int64]int{}, map[bool]int{}
-	for _, q := range someWindowAsks(1200) {
-		for _, c := range windowCalls() {
-			got, want := c.call(q), c.want(q)
-			if !got.same(want) {
-				t.Fatalf("%s of %s: %s, want %s", c.name, brief(q), brief(got), brief(want))
-			}
-			met[got.code()]++
-			held[got.holds]++
-		}
-	}
-	if min(met[impl.OK], met[impl.ErrForm], met[impl.ErrMany], met[impl.ErrRange], met[impl.ErrNone], held[true]) < 50 {
-		t.Errorf("the codes are %v, and %d times held", met, held[true])
-	}
+	answers := checkRightly(t, someWindowAsks(1200), windowCalls())
+	checkCodesMet(t, answers, func(a windowAnswer) bool { return a.holds }, impl.OK, impl.ErrForm, impl.ErrMany, impl.ErrRange, impl.ErrNone)
 }
 
 func TestZeroBesideACodeOfWindows(t *testing.T) {
-	for _, q := range someWindowAsks(1200) {
-		for _, c := range windowCalls() {
-			if got := c.call(q); got.code() != impl.OK && !got.zeroed() {
-				t.Errorf("%s of %s has a code, and more", c.name, brief(q))
-			}
-		}
-	}
+	checkZeroed(t, someWindowAsks(1200), windowCalls())
 }
 
 func TestWindowsAnswerNewMemory(t *testing.T) {
-	for _, q := range someWindowAsks(600) {
-		for _, c := range windowCalls() {
-			roomed := q.roomed()
-			kept := roomed.wholly()
-			first, second, third := c.call(roomed), c.call(roomed), c.call(q.copied())
-			first.scribble()
-			if !roomed.wholly().same(kept) {
-				t.Fatalf("an answer of %s, %s, has memory of what was given", c.name, brief(q))
-			}
-			if !second.same(third) || !c.call(roomed).same(third) {
-				t.Fatalf("two answers of %s, %s, share memory", c.name, brief(q))
-			}
-			roomed.scribble()
-			if !second.same(third) {
-				t.Fatalf("an answer of %s, %s, hangs on what was given", c.name, brief(q))
-			}
-		}
-	}
+	checkNewMemory(t, someWindowAsks(600), windowCalls())
 }
 
 // Each row of an answer, and the room behind it, is its own: whichever is written last, none turns another.
@@ -295,13 +244,7 @@ func TestEveryEndOfWindows(t *testing.T) {
 		asks[13].w.Box.X1 = n
 		asks[14].w.Box.Y1 = n
 		asks[15].rows = filled(1, int(clampedTo(n, 0, 300)), 1)
-		for _, q := range asks {
-			for _, c := range windowCalls() {
-				if got, want := c.call(q), c.want(q); !got.same(want) {
-					t.Fatalf("%s of %s: %s, want %s", c.name, brief(q), brief(got), brief(want))
-				}
-			}
-		}
+		checkRightly(t, asks, windowCalls())
 	}
 }
 
@@ -314,11 +257,5 @@ func TestNoPassMapIsNoPassMap(t *testing.T) {
 	hollowToo.sizes, hollowToo.rows, hollowToo.other = grid(numbers()), grid(numbers(1), numbers()), grid(numbers())
 	some, someToo := bare, bare
 	some.rows, someToo.rows, someToo.other = grid(numbers(1)), grid(numbers(1)), [][]int64{}
-	for _, pair := range [][2]windowAsk{{bare, empty}, {hollow, hollowToo}, {some, someToo}} {
-		for _, c := range windowCalls() {
-			if !c.call(pair[0]).same(c.call(pair[1])) || !c.call(pair[0]).same(c.want(pair[0])) {
-				t.Errorf("%s: nil and an empty list differ", c.name)
-			}
-		}
-	}
+	checkNoneIsNone(t, [][2]windowAsk{{bare, empty}, {hollow, hollowToo}, {some, someToo}}, windowCalls())
 }
