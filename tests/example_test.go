@@ -82,6 +82,12 @@ func TestConstantOfOverlay(t *testing.T) {
 	}
 }
 
+func TestConstantsOfStacks(t *testing.T) {
+	if got, want := []int64{impl.MaxColumns, impl.MaxStack, impl.MaxThick, impl.MaxMats, impl.Silicon, impl.Oxide}, numbers(16, 24, 100000, 12, 1, 2); !slices.Equal(got, want) {
+		t.Errorf("the constants are %v, want %v", got, want)
+	}
+}
+
 func TestExamplesOfFractions(t *testing.T) {
 	if r := impl.AddFrac(impl.Frac{Num: 1, Den: 2}, impl.Frac{Num: 1, Den: 3}); r != (impl.FracResult{Frac: impl.Frac{Num: 5, Den: 6}}) {
 		t.Errorf("1/2 and 1/3 are %v", r)
@@ -149,4 +155,8 @@ func TestExampleOfWindows(t *testing.T) {
 
 func TestExampleOfOverlay(t *testing.T) {
 	checkFitted(t, "three marks", marks(mark(0, 0, 1, 0), mark(2, 0, 3, 0), mark(0, 2, 1, 2)), fitted(wholeModel(1, 0, 1, 0)))
+}
+
+func TestExampleOfStacks(t *testing.T) {
+	checkGrown(t, "of 50 silicon", impl.Oxidise(section(pile(1, 50)), 25), sectionOf(pile(1, 39, 2, 25)))
 }
