@@ -88,6 +88,12 @@ func TestConstantsOfStacks(t *testing.T) {
 	}
 }
 
+func TestConstantOfProfiles(t *testing.T) {
+	if got := int64(impl.MaxDepth); got != 40 {
+		t.Errorf("MaxDepth is %d", got)
+	}
+}
+
 func TestExamplesOfFractions(t *testing.T) {
 	if r := impl.AddFrac(impl.Frac{Num: 1, Den: 2}, impl.Frac{Num: 1, Den: 3}); r != (impl.FracResult{Frac: impl.Frac{Num: 5, Den: 6}}) {
 		t.Errorf("1/2 and 1/3 are %v", r)
@@ -159,4 +165,8 @@ func TestExampleOfOverlay(t *testing.T) {
 
 func TestExampleOfStacks(t *testing.T) {
 	checkGrown(t, "of 50 silicon", impl.Oxidise(section(pile(1, 50)), 25), sectionOf(pile(1, 39, 2, 25)))
+}
+
+func TestExampleOfProfiles(t *testing.T) {
+	checkMade(t, "64 0", impl.Anneal(profile(0, 64, 0), 16, 1), profileOf(0, 48, 16))
 }
