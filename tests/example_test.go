@@ -94,6 +94,12 @@ func TestConstantOfProfiles(t *testing.T) {
 	}
 }
 
+func TestConstantsOfMeasures(t *testing.T) {
+	if got, want := []int64{impl.MaxTrace, impl.FrameLong, impl.MaxLibrary}, numbers(200, 8, 20); !slices.Equal(got, want) {
+		t.Errorf("the constants are %v, want %v", got, want)
+	}
+}
+
 func TestExamplesOfFractions(t *testing.T) {
 	if r := impl.AddFrac(impl.Frac{Num: 1, Den: 2}, impl.Frac{Num: 1, Den: 3}); r != (impl.FracResult{Frac: impl.Frac{Num: 5, Den: 6}}) {
 		t.Errorf("1/2 and 1/3 are %v", r)
@@ -169,4 +175,10 @@ func TestExampleOfStacks(t *testing.T) {
 
 func TestExampleOfProfiles(t *testing.T) {
 	checkMade(t, "64 0", impl.Anneal(profile(0, 64, 0), 16, 1), profileOf(0, 48, 16))
+}
+
+func TestExamplesOfMeasures(t *testing.T) {
+	checkBits(t, "1", 1, 0x3FF0000000000000)
+	checkMean(t, "1, NaN, 2", impl.MeanOf(reading(1, nan, 2)), mean(2, 1.5))
+	checkMean(t, "3 1 2 4", impl.MedianOf(reading(3, 1, 2, 4)), mean(4, 2))
 }

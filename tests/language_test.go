@@ -19,19 +19,19 @@ const mostLines = 60
 var mayImport = []string{"bytes", "cmp", "container/heap", "errors", "iter", "maps", "math", "math/big", "math/bits", "slices",
 	"sort", "strconv", "strings", "sync", "sync/atomic", "unicode", "unicode/utf8"}
 
-// eachFile calls do with every file of the program, its name, its text and its tree.
+// eachFile calls do with every file of the program, its name, its text and its tree; all are of one set.
 func eachFile(t *testing.T, do func(name string, text []byte, set *token.FileSet, file *ast.File)) {
 	t.Helper()
 	names, err := filepath.Glob("../impl/*.go")
 	if err != nil || len(names) == 0 {
 		t.Fatal("no files of the program", err)
 	}
+	set := token.NewFileSet()
 	for _, name := range names {
 		text, err := os.ReadFile(name)
 		if err != nil {
 			t.Fatal(err)
 		}
-		set := token.NewFileSet()
 		file, err := parser.ParseFile(set, name, text, parser.ParseComments)
 		if err != nil {
 			t.Fatal(err)
