@@ -1,6 +1,7 @@
 package tests
 
 import (
+	"slices"
 	"testing"
 
 	"loop.example/g00057/impl"
@@ -128,5 +129,23 @@ func checkNoneIsNone[Q askLike[Q], A answerLike[A]](t *testing.T, pairs [][2]Q, 
 				t.Errorf("%s: nil and an empty list differ", c.name)
 			}
 		}
+	}
+}
+
+// checkApart: what is done to one list of an answer, up to the end of its memory, turns no other one of it.
+func checkApart[T any](t *testing.T, what string, lists [][]T, fill T, same func(a []T, b []T) bool) {
+	t.Helper()
+	var kept [][]T
+	for _, list := range lists {
+		kept = append(kept, slices.Clone(list))
+	}
+	for i, list := range lists {
+		scribbleAll(list, fill)
+		for j, other := range lists {
+			if j != i && !same(other, kept[j]) {
+				t.Fatalf("the lists %d and %d of %s share memory", i, j, what)
+			}
+		}
+		copy(list, kept[i])
 	}
 }

@@ -100,6 +100,12 @@ func TestConstantsOfMeasures(t *testing.T) {
 	}
 }
 
+func TestConstantsOfDefects(t *testing.T) {
+	if got, want := []int64{impl.MaxDefects, impl.MaxClasses}, numbers(60, 20); !slices.Equal(got, want) {
+		t.Errorf("the constants are %v, want %v", got, want)
+	}
+}
+
 func TestExamplesOfFractions(t *testing.T) {
 	if r := impl.AddFrac(impl.Frac{Num: 1, Den: 2}, impl.Frac{Num: 1, Den: 3}); r != (impl.FracResult{Frac: impl.Frac{Num: 5, Den: 6}}) {
 		t.Errorf("1/2 and 1/3 are %v", r)

@@ -250,15 +250,7 @@ func TestMeasuresAnswerNewMemory(t *testing.T) {
 // Each frame of an answer, and the room behind it, is its own.
 func TestFramesOfOneAnswerAreApart(t *testing.T) {
 	for _, q := range append(someMeasureAsks(200), fullMeasure()) {
-		got := impl.FramesOf(q.list).Frames
-		for i, one := range got {
-			scribbleAll(one, float64(i))
-		}
-		for i, one := range got {
-			if !sameReading(one, slices.Repeat(reading(float64(i)), 8)) {
-				t.Fatalf("two frames of %s share memory", brief(q.list))
-			}
-		}
+		checkApart(t, brief(q.list), impl.FramesOf(q.list).Frames, 77777, sameReading)
 	}
 }
 
