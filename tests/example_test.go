@@ -106,6 +106,13 @@ func TestConstantsOfDefects(t *testing.T) {
 	}
 }
 
+func TestConstantsOfCharts(t *testing.T) {
+	got := []int64{impl.MaxChart, impl.RuleFar, impl.RuleTwo, impl.RuleFour, impl.RuleSide, impl.RuleTrend, impl.RuleZigzag}
+	if want := numbers(200, 1, 2, 3, 4, 5, 6); !slices.Equal(got, want) {
+		t.Errorf("the constants are %v, want %v", got, want)
+	}
+}
+
 func TestExamplesOfFractions(t *testing.T) {
 	if r := impl.AddFrac(impl.Frac{Num: 1, Den: 2}, impl.Frac{Num: 1, Den: 3}); r != (impl.FracResult{Frac: impl.Frac{Num: 5, Den: 6}}) {
 		t.Errorf("1/2 and 1/3 are %v", r)
@@ -187,4 +194,9 @@ func TestExamplesOfMeasures(t *testing.T) {
 	checkBits(t, "1", 1, 0x3FF0000000000000)
 	checkMean(t, "1, NaN, 2", impl.MeanOf(reading(1, nan, 2)), mean(2, 1.5))
 	checkMean(t, "3 1 2 4", impl.MedianOf(reading(3, 1, 2, 4)), mean(4, 2))
+}
+
+func TestExamplesOfCharts(t *testing.T) {
+	checkToldAlarms(t, "0 7 0 7 10", impl.AlarmsOf(numbers(0, 7, 0, 7, 10), 0, 3), alarmsAt(3, impl.RuleTwo, 4, impl.RuleFar, 4, impl.RuleTwo))
+	checkToldRun(t, "to 10", impl.RunLoop(loop(10, 1, 2, 0), numbers(0, 0, 0)), loopRun(numbers(0, 5, 8), numbers(-10, -5, -2)))
 }
