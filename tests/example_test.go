@@ -113,6 +113,14 @@ func TestConstantsOfCharts(t *testing.T) {
 	}
 }
 
+func TestConstantsOfRecipes(t *testing.T) {
+	got := []int64{impl.MaxParams, impl.MaxSteps, impl.MaxSettings, impl.MaxVersions, impl.VarNumber, impl.VarParam}
+	want := []int64{20, 40, 8, 20, 1, 2}
+	if !slices.Equal(got, want) {
+		t.Errorf("the constants are %v, want %v", got, want)
+	}
+}
+
 func TestExamplesOfFractions(t *testing.T) {
 	if r := impl.AddFrac(impl.Frac{Num: 1, Den: 2}, impl.Frac{Num: 1, Den: 3}); r != (impl.FracResult{Frac: impl.Frac{Num: 5, Den: 6}}) {
 		t.Errorf("1/2 and 1/3 are %v", r)
