@@ -176,7 +176,7 @@ func someRecipeAsks(n int) []recipeAsk {
 // greatRecipeAsk has far too much of all.
 func greatRecipeAsk() recipeAsk {
 	q := fullRecipeAsk()
-	q.b = recipe("great", make([]impl.Param, 10000), make([]impl.RecipeStep, 10000)...)
+	q.b = recipe("great", make([]impl.Param, 1000), make([]impl.RecipeStep, 1000)...)
 	q.values, q.list, q.text = make([]impl.Setting, 1000), make([]impl.Change, 10000), strings.Repeat("recipe a\n", 10000)
 	return q
 }
