@@ -120,6 +120,24 @@ func checkNewMemory[Q askLike[Q], A answerLike[A]](t *testing.T, asks []Q, calls
 	}
 }
 
+// checkKeepsNothing: what was asked ahead of a call, by whichever of them, turns no answer.
+func checkKeepsNothing[Q askLike[Q], A answerLike[A]](t *testing.T, asks []Q, calls []callLike[Q, A]) {
+	t.Helper()
+	var first []A
+	for _, q := range asks {
+		for _, c := range calls {
+			first = append(first, c.call(q))
+		}
+	}
+	for i := len(asks) - 1; i >= 0; i-- {
+		for k := len(calls) - 1; k >= 0; k-- {
+			if !calls[k].call(asks[i]).same(first[i*len(calls)+k]) {
+				t.Fatalf("%s of %s has two answers", calls[k].name, brief(asks[i]))
+			}
+		}
+	}
+}
+
 // checkNoneIsNone: nil and an empty list are one value.
 func checkNoneIsNone[Q askLike[Q], A answerLike[A]](t *testing.T, pairs [][2]Q, calls []callLike[Q, A]) {
 	t.Helper()

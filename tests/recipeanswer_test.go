@@ -223,22 +223,8 @@ func TestSettingsOfStepsAreApart(t *testing.T) {
 	}
 }
 
-// A call keeps nothing: what was asked ahead of it, by whichever of them, turns no answer.
 func TestRecipesKeepNothing(t *testing.T) {
-	asks, calls := someRecipeAsks(60), recipeCalls()
-	var first []recipeAnswer
-	for _, q := range asks {
-		for _, c := range calls {
-			first = append(first, c.call(q))
-		}
-	}
-	for i := len(asks) - 1; i >= 0; i-- {
-		for k := len(calls) - 1; k >= 0; k-- {
-			if !calls[k].call(asks[i]).same(first[i*len(calls)+k]) {
-				t.Fatalf("%s of %s has two answers", calls[k].name, brief(asks[i]))
-			}
-		}
-	}
+	checkKeepsNothing(t, someRecipeAsks(60), recipeCalls())
 }
 
 // Every end stands once in each place where a number is given.
