@@ -121,6 +121,14 @@ func TestConstantsOfRecipes(t *testing.T) {
 	}
 }
 
+func TestConstantsOfMessages(t *testing.T) {
+	got := []int64{impl.MaxItems, impl.MaxNest, impl.MaxData, impl.MaxMessage, impl.ItemList, impl.ItemText, impl.ItemBool, impl.ItemInt,
+		impl.TalkIdle, impl.TalkSent, impl.TalkDone, impl.TalkFailed, impl.EventSend, impl.EventAck, impl.EventNak, impl.EventTick}
+	if want := numbers(100, 8, 32, 2000, 0, 16, 9, 28, 0, 1, 2, 3, 1, 2, 3, 4); !slices.Equal(got, want) {
+		t.Errorf("the constants are %v, want %v", got, want)
+	}
+}
+
 func TestExamplesOfFractions(t *testing.T) {
 	if r := impl.AddFrac(impl.Frac{Num: 1, Den: 2}, impl.Frac{Num: 1, Den: 3}); r != (impl.FracResult{Frac: impl.Frac{Num: 5, Den: 6}}) {
 		t.Errorf("1/2 and 1/3 are %v", r)
@@ -207,4 +215,14 @@ func TestExamplesOfMeasures(t *testing.T) {
 func TestExamplesOfCharts(t *testing.T) {
 	checkToldAlarms(t, "0 7 0 7 10", impl.AlarmsOf(numbers(0, 7, 0, 7, 10), 0, 3), alarmsAt(3, impl.RuleTwo, 4, impl.RuleFar, 4, impl.RuleTwo))
 	checkToldRun(t, "to 10", impl.RunLoop(loop(10, 1, 2, 0), numbers(0, 0, 0)), loopRun(numbers(0, 5, 8), numbers(-10, -5, -2)))
+}
+
+func TestExamplesOfMessages(t *testing.T) {
+	list := items(listOf(2), textItem("a"), intItem(-2))
+	checkEncoded(t, "a text and an int", list, bytesOf(0x01, 0x02, 0x41, 0x01, 0x61, 0x71, 0x04, 0xFF, 0xFF, 0xFF, 0xFE))
+	checkDecoded(t, raw(0x01, 0x02, 0x41, 0x01, 0x61, 0x71, 0x04, 0xFF, 0xFF, 0xFF, 0xFE), itemsOf(list...))
+	cut := impl.CutBlocks(message(1, 3, 5))
+	if want := (impl.BlocksResult{Blocks: [][]byte{raw(0x05, 0x01, 0x03, 0x01, 0x05, 0x01, 0x00, 0x0B)}}); !sameBlocks(cut, want) {
+		t.Errorf("no data is cut into %v, want %v", cut, want)
+	}
 }
