@@ -129,6 +129,14 @@ func TestConstantsOfMessages(t *testing.T) {
 	}
 }
 
+func TestConstantsOfTools(t *testing.T) {
+	got := []int64{impl.MaxApproved, impl.MaxEvents, impl.ToolOff, impl.ToolIdle, impl.ToolReady, impl.ToolRunning, impl.ToolAlarm, impl.ToolDown, impl.ToolSafe,
+		impl.ToolPower, impl.ToolLoad, impl.ToolStart, impl.ToolEnd, impl.ToolTrip, impl.ToolClear, impl.ToolService, impl.ToolQualify, impl.ToolFail}
+	if want := numbers(20, 200, 0, 1, 2, 3, 4, 5, 6, 1, 2, 3, 4, 5, 6, 7, 8, 9); !slices.Equal(got, want) {
+		t.Errorf("the constants are %v, want %v", got, want)
+	}
+}
+
 func TestExamplesOfFractions(t *testing.T) {
 	if r := impl.AddFrac(impl.Frac{Num: 1, Den: 2}, impl.Frac{Num: 1, Den: 3}); r != (impl.FracResult{Frac: impl.Frac{Num: 5, Den: 6}}) {
 		t.Errorf("1/2 and 1/3 are %v", r)
