@@ -1,8 +1,10 @@
 package tests
 
 import (
+	"runtime"
 	"slices"
 	"testing"
+	"time"
 
 	"loop.example/g00057/impl"
 )
@@ -166,4 +168,16 @@ func checkApart[T any](t *testing.T, what string, lists [][]T, fill T, same func
 		}
 		copy(list, kept[i])
 	}
+}
+
+// checkNoWorkerStays waits a while: one that has done its work may not be gone yet.
+func checkNoWorkerStays(t *testing.T, before int) {
+	t.Helper()
+	for range 200 {
+		if runtime.NumGoroutine() <= before {
+			return
+		}
+		time.Sleep(5 * time.Millisecond)
+	}
+	t.Errorf("there were %d workers, now there are %d", before, runtime.NumGoroutine())
 }

@@ -137,6 +137,13 @@ func TestConstantsOfTools(t *testing.T) {
 	}
 }
 
+func TestConstantsOfClusters(t *testing.T) {
+	got := []int64{impl.MaxChambers, impl.MaxRoute, impl.MaxWafers, impl.MaxZones}
+	if want := numbers(6, 8, 12, 30); !slices.Equal(got, want) {
+		t.Errorf("the constants are %v, want %v", got, want)
+	}
+}
+
 func TestExamplesOfFractions(t *testing.T) {
 	if r := impl.AddFrac(impl.Frac{Num: 1, Den: 2}, impl.Frac{Num: 1, Den: 3}); r != (impl.FracResult{Frac: impl.Frac{Num: 5, Den: 6}}) {
 		t.Errorf("1/2 and 1/3 are %v", r)
@@ -233,4 +240,14 @@ func TestExamplesOfMessages(t *testing.T) {
 	if want := (impl.BlocksResult{Blocks: [][]byte{raw(0x05, 0x01, 0x03, 0x01, 0x05, 0x01, 0x00, 0x0B)}}); !sameBlocks(cut, want) {
 		t.Errorf("no data is cut into %v, want %v", cut, want)
 	}
+}
+
+func TestExampleOfClusters(t *testing.T) {
+	c := cluster(1, numbers(5, 7), 1, 2)
+	var ats []int64
+	for _, h := range impl.MakeSchedule(c, 2).Hauls {
+		ats = append(ats, h.At)
+	}
+	checkInts(t, "two wafers", ints(ats...), ints(0, 6, 7, 14, 15, 23))
+	checkValue(t, "two wafers", impl.LeastEnd(c, 2), value(16))
 }

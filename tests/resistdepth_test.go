@@ -5,7 +5,6 @@ import (
 	"runtime"
 	"sync"
 	"testing"
-	"time"
 
 	"loop.example/g00057/impl"
 )
@@ -140,11 +139,5 @@ func TestExposureDoesNotHangOnWorkers(t *testing.T) {
 		}
 		calls.Wait()
 	}
-	for range 200 {
-		if runtime.NumGoroutine() <= before {
-			return
-		}
-		time.Sleep(5 * time.Millisecond)
-	}
-	t.Errorf("there were %d workers, now there are %d", before, runtime.NumGoroutine())
+	checkNoWorkerStays(t, before)
 }
