@@ -144,6 +144,13 @@ func TestConstantsOfClusters(t *testing.T) {
 	}
 }
 
+func TestConstantsOfLots(t *testing.T) {
+	got := []int64{impl.MaxLots, impl.MaxLotWafers, impl.MaxRouteSteps, impl.MaxWindows}
+	if want := numbers(30, 25, 40, 10); !slices.Equal(got, want) {
+		t.Errorf("the constants are %v, want %v", got, want)
+	}
+}
+
 func TestExamplesOfFractions(t *testing.T) {
 	if r := impl.AddFrac(impl.Frac{Num: 1, Den: 2}, impl.Frac{Num: 1, Den: 3}); r != (impl.FracResult{Frac: impl.Frac{Num: 5, Den: 6}}) {
 		t.Errorf("1/2 and 1/3 are %v", r)
