@@ -151,6 +151,13 @@ func TestConstantsOfLots(t *testing.T) {
 	}
 }
 
+func TestConstantsOfDispatch(t *testing.T) {
+	got := []int64{impl.MaxJobs, impl.MaxExact, impl.PickFirst, impl.PickDue, impl.PickShort, impl.PickRatio}
+	if want := numbers(30, 7, 1, 2, 3, 4); !slices.Equal(got, want) {
+		t.Errorf("the constants are %v, want %v", got, want)
+	}
+}
+
 func TestExamplesOfFractions(t *testing.T) {
 	if r := impl.AddFrac(impl.Frac{Num: 1, Den: 2}, impl.Frac{Num: 1, Den: 3}); r != (impl.FracResult{Frac: impl.Frac{Num: 5, Den: 6}}) {
 		t.Errorf("1/2 and 1/3 are %v", r)
