@@ -158,6 +158,14 @@ func TestConstantsOfDispatch(t *testing.T) {
 	}
 }
 
+func TestConstantsOfProbes(t *testing.T) {
+	got := []int64{impl.MaxElements, impl.MaxCellsTest, impl.MaxMap, impl.ReadZero, impl.ReadOne, impl.WriteZero, impl.WriteOne,
+		impl.FaultStuck, impl.FaultRise, impl.FaultFall, impl.FaultForce, impl.FaultFlip}
+	if want := numbers(12, 12, 20, 0, 1, 2, 3, 1, 2, 3, 4, 5); !slices.Equal(got, want) {
+		t.Errorf("the constants are %v, want %v", got, want)
+	}
+}
+
 func TestExamplesOfFractions(t *testing.T) {
 	if r := impl.AddFrac(impl.Frac{Num: 1, Den: 2}, impl.Frac{Num: 1, Den: 3}); r != (impl.FracResult{Frac: impl.Frac{Num: 5, Den: 6}}) {
 		t.Errorf("1/2 and 1/3 are %v", r)
@@ -264,4 +272,11 @@ func TestExampleOfClusters(t *testing.T) {
 	}
 	checkInts(t, "two wafers", ints(ats...), ints(0, 6, 7, 14, 15, 23))
 	checkValue(t, "two wafers", impl.LeastEnd(c, 2), value(16))
+}
+
+func TestExampleOfProbes(t *testing.T) {
+	march := marchOf(upward(impl.WriteZero), upward(impl.ReadZero, impl.WriteOne), downward(impl.ReadOne, impl.WriteZero, impl.ReadZero))
+	if got := impl.CoverMarch(march, 2); got.All != 16 || got.Found != 13 {
+		t.Errorf("on two cells: %v", got)
+	}
 }
