@@ -166,6 +166,13 @@ func TestConstantsOfProbes(t *testing.T) {
 	}
 }
 
+func TestConstantsOfFabs(t *testing.T) {
+	got := []int64{impl.MaxTanks, impl.MaxScript, impl.MaxCommands}
+	if want := numbers(12, 4000, 120); !slices.Equal(got, want) {
+		t.Errorf("the constants are %v, want %v", got, want)
+	}
+}
+
 func TestExamplesOfFractions(t *testing.T) {
 	if r := impl.AddFrac(impl.Frac{Num: 1, Den: 2}, impl.Frac{Num: 1, Den: 3}); r != (impl.FracResult{Frac: impl.Frac{Num: 5, Den: 6}}) {
 		t.Errorf("1/2 and 1/3 are %v", r)
@@ -279,4 +286,9 @@ func TestExampleOfProbes(t *testing.T) {
 	if got := impl.CoverMarch(march, 2); got.All != 16 || got.Found != 13 {
 		t.Errorf("on two cells: %v", got)
 	}
+}
+
+func TestExampleOfTraces(t *testing.T) {
+	bytes := raw(0x80, 0x80, 0x80, 0x80, 0x80, 0x80, 0x80, 0xF8, 0x3F, 0x00, 0x80, 0x80, 0x80, 0x80, 0x80, 0x80, 0x80, 0x80, 0x80, 0x01)
+	checkPackedAndUnpacked(t, "1, 1 and -1", reading(1, 1, -1), bytes...)
 }
