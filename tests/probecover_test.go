@@ -4,6 +4,7 @@ import (
 	"math/rand"
 	"runtime"
 	"slices"
+	"strconv"
 	"sync"
 	"testing"
 
@@ -194,6 +195,48 @@ func TestMarchesSideBySide(t *testing.T) {
 	for i := range got {
 		checkCover(t, "one of many", got[i], want)
 		checkCover(t, "one of many", faultsTold[i], faultsToldWant(int64(1+i%12)))
+	}
+	checkNoWorkerStays(t, before)
+}
+
+// faultNumbers are those of cells at which all is asked again and again.
+func faultNumbers() []int64 {
+	return numbers(1, 2, 12)
+}
+
+// All faults, in order: what is told hangs on the arguments alone, not on how often it was asked, nor on who asks at the same time.
+func TestFaultsAreToldHoweverOftenTheyAreAsked(t *testing.T) {
+	for round := range 20 {
+		for _, cells := range faultNumbers() {
+			checkFaults(t, "asked "+strconv.Itoa(round)+" times ahead", cells, covers(4*cells*cells, 0, faultsWant(cells)...))
+			checkCoverage(t, "all are missed", blindMarch(), cells, covers(4*cells*cells, 0, faultsWant(cells)...))
+			checkCoverage(t, "some are missed", exampleMarch(), cells, coveredWant(exampleMarch(), cells))
+			checkCoverage(t, "none is missed", fullMarch(), cells, covers(4*cells*cells, 4*cells*cells))
+		}
+	}
+}
+
+func TestFaultsAreToldToManyAtOneTime(t *testing.T) {
+	before := runtime.NumGoroutine()
+	asks := 3 * 24
+	told, missed, some := make([]impl.CoverResult, asks), make([]impl.CoverResult, asks), make([]impl.CoverResult, asks)
+	start := make(chan struct{})
+	var joined sync.WaitGroup
+	for i := range asks {
+		joined.Go(func() {
+			<-start
+			cells := faultNumbers()[i%3]
+			told[i], missed[i], some[i] = impl.FaultsOf(cells), impl.CoverMarch(blindMarch(), cells), impl.CoverMarch(exampleMarch(), cells)
+		})
+	}
+	close(start)
+	joined.Wait()
+	for i := range asks {
+		cells := faultNumbers()[i%3]
+		want := covers(4*cells*cells, 0, faultsWant(cells)...)
+		checkCover(t, "one of many", told[i], want)
+		checkCover(t, "one of many, all missed", missed[i], want)
+		checkCover(t, "one of many, some missed", some[i], coveredWant(exampleMarch(), cells))
 	}
 	checkNoWorkerStays(t, before)
 }

@@ -100,3 +100,69 @@ func TestTableOfFaultsIsMadeOnce(t *testing.T) {
 		t.Error("nothing that is kept is written")
 	}
 }
+
+// readsOfKept has the names of the variables that a function reads, each beside how: all of its uses, but what is written.
+func readsOfKept(f *ast.FuncDecl, kept map[string]bool) map[string][]string {
+	reads := map[string][]string{}
+	var above []ast.Node
+	ast.Inspect(f, func(n ast.Node) bool {
+		if n == nil {
+			above = above[:len(above)-1]
+			return true
+		}
+		if name, ok := n.(*ast.Ident); ok && kept[name.Name] {
+			if how := useOf(name, above[len(above)-1]); how != "written" {
+				reads[name.Name] = append(reads[name.Name], how)
+			}
+		}
+		above = append(above, n)
+		return true
+	})
+	return reads
+}
+
+// useOf tells how a name is used by what stands right above it.
+func useOf(name *ast.Ident, above ast.Node) string {
+	switch kind := above.(type) {
+	case *ast.AssignStmt:
+		for _, left := range kind.Lhs {
+			if left == name {
+				return "written"
+			}
+		}
+	case *ast.CallExpr:
+		if called, ok := kind.Fun.(*ast.Ident); ok && called.Name == "len" {
+			return "len"
+		}
+	case *ast.SelectorExpr:
+		return kind.Sel.Name
+	}
+	return "other"
+}
+
+// What is answered is worked out by functions that read nothing that is kept: exported functions alone ask for it, that it be made, and how long it is.
+func TestAnswersAreWorkedOutWithoutTheTableOfFaults(t *testing.T) {
+	_, files := typesOf(t)
+	file := files["l23_probe.go"]
+	kept, _ := keptNames(file)
+	readers := map[string]int{}
+	for _, d := range file.Decls {
+		f, ok := d.(*ast.FuncDecl)
+		if !ok {
+			continue
+		}
+		for name, ways := range readsOfKept(f, kept) {
+			readers[name]++
+			for _, how := range ways {
+				if !f.Name.IsExported() || how != "len" && how != "Do" {
+					t.Errorf("%s reads %s (%s)", f.Name.Name, name, how)
+				}
+			}
+		}
+	}
+	for name := range kept {
+		if readers[name] == 0 {
+			t.Errorf("no exported function reads %s", name)
+		}
+	}
+}
